@@ -58,7 +58,7 @@ func (w *Writer) add(digit byte) {
 	w.count++
 }
 
-// Reader takes digits from the front of a row.
+// Reader takes digits from the front of a row. A copy of it goes its own way: row is never changed.
 type Reader struct {
 	row []byte
 	at  int // how many digits were taken
